@@ -27,21 +27,12 @@ func read(b []byte) answer {
 func wrong(at int, err api.Errno) answer { return answer{at: at, err: err} }
 
 // model says of a file what the chapter says, by the positions of all sections, without haste.
-type model struct {
-	b     []byte
-	ended bool // a section does not end within b
-}
+type model struct{ b []byte }
 
 func (m *model) short(at int) int { return int(int16(binary.LittleEndian.Uint16(m.b[at:]))) }
 
-// bytes returns a section, or nothing if it does not end within b.
-func (m *model) bytes(at, n int) []byte {
-	if at+n > len(m.b) {
-		m.ended = true
-		return nil
-	}
-	return m.b[at : at+n]
-}
+// bytes returns a section, which ends within b.
+func (m *model) bytes(at, n int) []byte { return m.b[at : at+n] }
 
 func evenUp(at int) int { return at + at&1 }
 
@@ -115,12 +106,12 @@ func modelRead(b []byte) answer {
 	tableAt := strsAt + 2*m.short(8)
 	end := tableAt + m.short(10)
 
-	names := m.bytes(12, m.short(2))
-	if !m.ended && (names[0] == 0 || bytes.Count(names, []byte{0}) != 1 || names[len(names)-1] != 0) {
-		return wrong(12, api.ErrTable)
-	}
 	if end > len(b) {
 		return wrong(len(b), api.ErrEnds)
+	}
+	names := m.bytes(12, m.short(2))
+	if names[0] == 0 || bytes.Count(names, []byte{0}) != 1 || names[len(names)-1] != 0 {
+		return wrong(12, api.ErrTable)
 	}
 	term := api.Term{Names: strings.TrimSuffix(string(names), "\x00"), Wide: size == 4}
 	term.Bools = m.caps(kindFlag, flagsAt, m.short(4), 1)

@@ -25,7 +25,7 @@ type flaw struct {
 
 func fail(at int, err api.Errno) { panic(flaw{at: at, err: err}) }
 
-// reader reads a file from left to right, and panics with the first flaw that it meets.
+// reader reads a file section by section, and panics with the first flaw. That a part of the file ends too early comes before what is wrong in its sections: they are all taken before one is judged.
 type reader struct {
 	b    []byte
 	at   int // where the next section begins
@@ -35,13 +35,16 @@ type reader struct {
 func (r *reader) term() api.Term {
 	count := r.header()
 	t := api.Term{Wide: r.size == wideSize}
-	t.Names = r.names(count[0])
+	nameStart := r.at
+	names := r.take(count[0])
 	t.Bools = r.flags(count[1])
 	r.even()
 	t.Nums = r.numbers(count[2])
-	start := r.at
+	textStart := r.at
 	indices := r.shorts(count[3])
-	t.Strs = texts(start, indices, r.take(count[4]))
+	table := r.take(count[4])
+	t.Names = namesOf(nameStart, names)
+	t.Strs = texts(textStart, indices, table)
 	if r.at == len(r.b) {
 		return t
 	}
@@ -110,11 +113,10 @@ func (r *reader) header() []int {
 	return count
 }
 
-func (r *reader) names(n int) string {
-	start := r.at
-	b := r.take(n)
+// namesOf returns the names without the byte 0 at their end; they stand at start.
+func namesOf(start int, b []byte) string {
 	end := bytes.IndexByte(b, 0)
-	if end < 1 || end != n-1 {
+	if end < 1 || end != len(b)-1 {
 		fail(start, api.ErrTable)
 	}
 	return string(b[:end])

@@ -225,21 +225,86 @@ func TestReadCounts(t *testing.T) {
 // TestReadNames: P3.2 (Read), ErrTable for the names: their only byte 0 is their last one, and is not alone.
 func TestReadNames(t *testing.T) {
 	for _, names := range []string{"\x00", "a", "\x00\x00", "\x00a", "a\x00\x00", "\x00a\x00", "a\x00b\x00", "abcd", "a\x00bc", "ab\x00c\x00"} {
-		f := file{{"head", le(0x11a, len(names), 0, 0, 0, 0)}, {"names", []byte(names)}}
+		f := file{{"head", le(0x11a, len(names), 0, 0, 0, 0)}, {"names", []byte(names)}, {"pad", make([]byte, len(names)%2)}}
 		wantFlaw(t, f.bytes(), 12, api.ErrTable)
+		for n := range f.bytes() {
+			wantFlaw(t, f.bytes()[:n], n, api.ErrEnds)
+		}
 	}
 	for _, names := range []string{"a\x00", "|\x00", "\xff\x01\x00", strings.Repeat("n", 511) + "\x00"} {
 		f := file{{"head", le(0x11a, len(names), 0, 0, 0, 0)}, {"names", []byte(names)}, {"pad", make([]byte, len(names)%2)}}
 		wantTerm(t, f.bytes(), api.Term{Names: names[:len(names)-1]})
 	}
-	// From left to right: the names are complete before the file ends too early, or not.
-	f := hand().with("names", []byte("ab|cd"))
-	for n := range f.bytes() {
-		switch {
-		case n < f.at("flags"):
-			wantFlaw(t, f.bytes()[:n], n, api.ErrEnds)
-		default:
-			wantFlaw(t, f.bytes()[:n], 12, api.ErrTable)
+	// Where the first part ends too early, that comes first; in the extended part it does not matter.
+	for _, names := range []string{"ab|cd", "a\x00b|\x00", "\x00\x00\x00\x00\x00"} {
+		f := hand().with("names", []byte(names))
+		for n := range len(f.bytes()) + 1 {
+			if n < f.at("pad2") {
+				wantFlaw(t, f.bytes()[:n], n, api.ErrEnds)
+			} else {
+				wantFlaw(t, f.bytes()[:n], 12, api.ErrTable)
+			}
+		}
+	}
+}
+
+// flawed is a flaw of a file, and what Read says of it.
+type flawed struct {
+	at  int
+	err api.Errno
+	end int    // where the file ends
+	pos int    // where bytes are put into the file
+	b   []byte // what they are
+}
+
+// flaws are such as the file can have, in the order in which the chapter lists them.
+func flaws(f file) []flawed {
+	var l []flawed
+	size := len(f.bytes())
+	cut := func(from, to int) {
+		for n := from; n < to; n++ {
+			l = append(l, flawed{at: n, err: api.ErrEnds, end: n})
+		}
+	}
+	put := func(err api.Errno, section string, at int, b []byte) {
+		at += f.at(section)
+		l = append(l, flawed{at: at, err: err, end: size, pos: at, b: b})
+	}
+	cut(0, 12)
+	put(api.ErrMagic, "head", 0, le(0x11b))
+	for i := range 5 {
+		put(api.ErrCount, "head", 2+2*i, le(-1))
+	}
+	cut(12, f.at("pad2"))
+	put(api.ErrTable, "names", 0, []byte("a\x00|c\x00"))
+	put(api.ErrTable, "strings", 4, le(9))
+	put(api.ErrTable, "strings", 14, le(10))
+	cut(f.at("counts")+1, f.at("xflags"))
+	for i := range 5 {
+		put(api.ErrCount, "counts", 2*i, le(-1))
+	}
+	cut(f.at("xflags"), size)
+	put(api.ErrCount, "counts", 6, le(12))
+	put(api.ErrTable, "xstrings", 4, le(36))
+	put(api.ErrTable, "xnames", 0, le(-1))
+	put(api.ErrTable, "xnames", 18, le(32767))
+	return append(l, flawed{at: size, err: api.ErrRest, end: size + 1})
+}
+
+// TestReadOrder: P3.2 (Read), files with two flaws: the one that the chapter lists first is told, wherever they stand.
+func TestReadOrder(t *testing.T) {
+	whole := hand().bytes()
+	l := flaws(hand())
+	for i, first := range l {
+		for _, other := range l[i:] {
+			b := append(bytes.Clone(whole), 0)
+			copy(b[other.pos:], other.b)
+			copy(b[first.pos:], first.b)
+			end := min(first.end, other.end)
+			if end == len(whole) {
+				end = max(first.end, other.end)
+			}
+			wantFlaw(t, b[:end], first.at, first.err)
 		}
 	}
 }
